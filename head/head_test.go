@@ -141,6 +141,14 @@ func value(b api.Block, field int) uint64 {
 	return 0
 }
 
+// classRight tells whether a header with a tag may have a class, as the chapter has it.
+func classRight(tag int, class int) bool {
+	if tag == 0 {
+		return class == 0
+	}
+	return class >= 1 && class <= 9
+}
+
 // valid tells whether a header may be, as the chapter has it.
 func valid(b api.Block) bool {
 	if b.Tag != 0 && b.Tag != 1 && b.Tag != 2 {
@@ -151,7 +159,7 @@ func valid(b api.Block) bool {
 			return false
 		}
 	}
-	if !(b.Class >= 1 && b.Class <= 9 || b.Class == 0 && b.Tag == 0) {
+	if !classRight(b.Tag, b.Class) {
 		return false
 	}
 	if b.Used && b.Tag != 1 {
@@ -214,13 +222,13 @@ func decode(l []byte) (api.Block, api.Errno) {
 	return b, api.OK
 }
 
-// bases are headers that may be: for each tag one with zeros where they may be, one with no two bytes alike, one with the greatest numbers.
+// bases are headers that may be: for each tag one with zeros where they may be, one with no two bytes alike (but those that can be 0 alone), one with the greatest numbers.
 func bases() []api.Block {
 	const most = math.MaxUint32
 	return []api.Block{
 		{},
-		{Class: 7, Name: 0x14131211},
-		{Class: 9, Name: most},
+		{Name: 0x14131211},
+		{Name: most},
 		{Tag: 1, Class: 1},
 		{Tag: 1, Class: 5, Used: true, Name: 0x14131211, Next: 0x24232221, Prev: 0x34333231, Expiry: 0x4847464544434241, Type: 0x5251, Size: 0x0161, Hash: 0x74737271},
 		{Tag: 1, Class: 9, Used: true, Name: most, Next: most, Prev: most, Expiry: math.MaxUint64, Type: math.MaxUint16, Size: 480, Hash: most},
@@ -235,7 +243,7 @@ func drawn() []api.Block {
 	next := numbers(13)
 	l := bases()
 	for range 500 {
-		b := api.Block{Class: int(next() % 10), Name: uint32(next())}
+		b := api.Block{Name: uint32(next())}
 		e := api.Block{Tag: 1, Class: 1 + int(next()%9), Used: next()%2 == 1, Name: uint32(next()), Next: uint32(next()), Prev: uint32(next()), Expiry: next(), Type: uint16(next()), Size: int(next() % 481), Hash: uint32(next())}
 		n := api.Block{Tag: 2, Class: 1 + int(next()%9), Label: 1 + int(next()%63), Name: uint32(next()), Refs: uint32(next()), Hash: uint32(next())}
 		l = append(l, b, e, n)
@@ -271,6 +279,17 @@ func kindOf(tag int) int {
 func create(t *testing.T, at int, n int, kind int) *memory.Memory {
 	t.Helper()
 	m := memory.New(small)
+	mark(t, m, at, n, kind)
+	return m
+}
+
+// dirty is a memory as create makes it, but each byte of the part is 0x99, so that a 0 that is stored there can be seen.
+func dirty(t *testing.T, at int, n int, kind int) *memory.Memory {
+	t.Helper()
+	m := memory.New(small)
+	if !m.Write(at, bytes.Repeat([]byte{0x99}, n), api.RegSlab) {
+		t.Fatal("Write", at, n)
+	}
 	mark(t, m, at, n, kind)
 	return m
 }
@@ -371,11 +390,59 @@ func TestRightExamples(t *testing.T) {
 	if !head.Right(api.Block{Name: 9}) {
 		t.Error("a free block with a name")
 	}
-	for class := range 11 {
-		free, entry, node := api.Block{Class: class}, api.Block{Tag: 1, Class: class}, api.Block{Tag: 2, Class: class, Label: 1}
-		if head.Right(free) != (class < 10) || head.Right(entry) != (class > 0 && class < 10) || head.Right(node) != (class > 0 && class < 10) {
-			t.Error("class", class)
+}
+
+// P13.2, P13.3: the class of a free block is 0, that of an entry or a node from 1 to 9: others may not be, have no bytes and are not put.
+func TestClass(t *testing.T) {
+	for _, class := range append(extremes(), -9, -2, -1, 0, 1, 2, 3, 4, 5, 6, 7, 8, 9, 10, 11, 255, 256, 257, 265) {
+		for _, x := range bases() {
+			x.Class = class
+			right, want, wantE := classRight(x.Tag, class), []byte(nil), api.ErrArg
+			m := dirty(t, first, 32, kindOf(x.Tag))
+			image := m.Image()
+			if right {
+				want, wantE = encode(x), api.OK
+				copy(image[first:], want)
+			}
+			if head.Right(x) != right {
+				t.Errorf("Right(%+v) is %v", x, !right)
+			}
+			if b, e := head.Encode(x); e != wantE || !bytes.Equal(b, want) {
+				t.Errorf("Encode(%+v) = %v, %d; want %v, %d", x, b, e, want, wantE)
+			}
+			if e := head.Put(m, first, x); e != wantE || !bytes.Equal(m.Image(), image) {
+				t.Errorf("Put(%+v) = %d; want %d", x, e, wantE)
+			}
 		}
+	}
+}
+
+// P13.2, P13.3: bytes with a class that their tag can't have are no header, in live bytes and in free ones.
+func TestClassBytes(t *testing.T) {
+	for class := range 256 {
+		for _, x := range bases() {
+			x.Class = class
+			want, wantE := x, api.OK
+			if !classRight(x.Tag, class) {
+				want, wantE = api.Block{}, api.ErrForm
+			}
+			l := encode(x)
+			if b, e := head.Decode(l); b != want || e != wantE {
+				t.Errorf("Decode(%v) = %+v, %d; want %+v, %d", l, b, e, want, wantE)
+			}
+			kinds := []int{api.RegLive}
+			if x.Tag == api.TagFree {
+				kinds = append(kinds, api.RegFree)
+			}
+			for _, kind := range kinds {
+				if b, e := head.Get(holding(t, l, kind), first); b != want || e != wantE {
+					t.Errorf("Get of %v, kind %d = %+v, %d; want %+v, %d", l, kind, b, e, want, wantE)
+				}
+			}
+		}
+	}
+	if b, e := head.Decode([]byte{0, 1, 0, 0, 0, 0, 0, 0}); b != (api.Block{}) || e != api.ErrForm {
+		t.Error("a free block of class 1", b, e)
 	}
 }
 
@@ -475,7 +542,7 @@ func TestInverse(t *testing.T) {
 		for i := range l {
 			l[i] = byte(next())
 		}
-		l[0], l[1], l[2], l[3] = byte(next()%3), byte(next()%10), byte(next()%2), byte(next()%3)
+		l[0], l[1], l[2], l[3] = byte(next()%3), byte(next()%3), byte(next()%2), byte(next()%3)
 		l[27] = byte(next() % 2)
 		l = l[:size(int(l[0]))]
 		if b, e := head.Decode(l); e == api.OK {
@@ -501,7 +568,7 @@ func TestPutGet(t *testing.T) {
 	for _, x := range drawn() {
 		kind := kindOf(x.Tag)
 		for _, at := range []int{first, first + 8, first + 1016 - 32, last - size(x.Tag)} {
-			m := create(t, at, size(x.Tag), kind)
+			m := dirty(t, at, size(x.Tag), kind)
 			want := m.Image()
 			copy(want[at:], encode(x))
 			if e := head.Put(m, at, x); e != api.OK {
@@ -561,7 +628,7 @@ func TestPutWrong(t *testing.T) {
 func TestPutKind(t *testing.T) {
 	for _, x := range bases() {
 		for kind := range 9 {
-			m := create(t, first, 64, kind)
+			m := dirty(t, first, 64, kind)
 			want, wantE := m.Image(), api.ErrKind
 			if kind == kindOf(x.Tag) {
 				copy(want[first:], encode(x))
@@ -592,7 +659,7 @@ func TestPutPartly(t *testing.T) {
 			if x.Tag == 2 && hole >= 8 && hole < 16 {
 				continue
 			}
-			m := create(t, first, 64, kind)
+			m := dirty(t, first, 64, kind)
 			mark(t, m, first+hole, 4, api.RegHead)
 			want, wantE := m.Image(), api.OK
 			for _, r := range rows(x.Tag) {
@@ -614,7 +681,7 @@ func TestPutAligned(t *testing.T) {
 	for _, x := range bases() {
 		for shift := range 9 {
 			at := first + shift
-			m := create(t, first, 64, kindOf(x.Tag))
+			m := dirty(t, first, 64, kindOf(x.Tag))
 			want, wantE := m.Image(), api.OK
 			for _, r := range rows(x.Tag) {
 				if (at+r.at)%r.width != 0 {
@@ -674,8 +741,8 @@ func TestGetForm(t *testing.T) {
 // P13.3: a free block is read as one: its first byte must be 0.
 func TestGetFree(t *testing.T) {
 	for i := range 256 {
-		l := []byte{byte(i), 1, 0, 0, 9, 0, 0, 0, 1, 0, 0, 0, 1, 0, 0, 0}
-		want, wantE := api.Block{Class: 1, Name: 9}, api.OK
+		l := []byte{byte(i), 0, 0, 0, 9, 0, 0, 0, 1, 0, 0, 0, 1, 0, 0, 0}
+		want, wantE := api.Block{Name: 9}, api.OK
 		if i != 0 {
 			want, wantE = api.Block{}, api.ErrForm
 		}
@@ -683,7 +750,7 @@ func TestGetFree(t *testing.T) {
 			t.Errorf("Get of free %v = %+v, %d", l, b, e)
 		}
 	}
-	for _, l := range [][]byte{{0, 10, 0, 0}, {0, 1, 1, 0}, {0, 1, 2, 0}, {0, 1, 0, 1}} {
+	for _, l := range [][]byte{{0, 1, 0, 0}, {0, 9, 0, 0}, {0, 10, 0, 0}, {0, 0, 1, 0}, {0, 0, 2, 0}, {0, 0, 0, 1}} {
 		if b, e := head.Get(holding(t, l, api.RegFree), first); b != (api.Block{}) || e != api.ErrForm {
 			t.Errorf("Get of free %v = %+v, %d", l, b, e)
 		}
@@ -737,7 +804,7 @@ func TestGetOrder(t *testing.T) {
 	if _, e := head.Get(short([]byte{1, 0, 2, 9}, api.RegLive), first); e != api.ErrKind {
 		t.Error("fields that can't be read, and not valid", e)
 	}
-	if _, e := head.Get(short([]byte{1, 1, 0, 0}, api.RegFree), first); e != api.ErrKind {
+	if _, e := head.Get(short([]byte{1, 0, 0, 0}, api.RegFree), first); e != api.ErrKind {
 		t.Error("fields that can't be read, and a free block with a tag", e)
 	}
 	if _, e := head.Get(short([]byte{3, 1, 0, 0}, api.RegPad), first); e != api.ErrKind {
